@@ -881,24 +881,28 @@ func TestParseEndsTooEarly(t *testing.T) {
 	}
 }
 
-// A sign too many, too few, in place of another, or two the wrong way round, at each place.
-func TestParseSignsTooManyAndTooFew(t *testing.T) {
-	changed := func(l []impl.Tok, want func(text string)) {
-		for at := range len(l) + 1 {
-			for _, sign := range allSigns {
-				want(impl.TokText(slices.Insert(slices.Clone(l), at, sign)))
-				if at < len(l) {
-					want(impl.TokText(replaced(l, at, sign)))
-				}
-			}
+// changedTexts have a sign too many, too few, in place of another, or two the wrong way round, at each place.
+func changedTexts(l []impl.Tok) []string {
+	var out []string
+	add := func(l []impl.Tok) { out = append(out, impl.TokText(l)) }
+	for at := range len(l) + 1 {
+		for _, sign := range allSigns {
+			add(slices.Insert(slices.Clone(l), at, sign))
 			if at < len(l) {
-				want(impl.TokText(slices.Delete(slices.Clone(l), at, at+1)))
-			}
-			if at+1 < len(l) {
-				want(impl.TokText(replaced(replaced(l, at, l[at+1]), at+1, l[at])))
+				add(replaced(l, at, sign))
 			}
 		}
+		if at < len(l) {
+			add(slices.Delete(slices.Clone(l), at, at+1))
+		}
+		if at+1 < len(l) {
+			add(replaced(replaced(l, at, l[at+1]), at+1, l[at]))
+		}
 	}
+	return out
+}
+
+func TestParseSignsTooManyAndTooFew(t *testing.T) {
 	right, all := 0, 0
 	count := func(ok bool) {
 		all++
@@ -908,14 +912,16 @@ func TestParseSignsTooManyAndTooFew(t *testing.T) {
 	}
 	for _, s := range wholeTexts {
 		l, _ := lexed(s)
-		changed(l, func(text string) { count(wantAsCut(t, text)) })
+		for _, text := range changedTexts(l) {
+			count(wantAsCut(t, text))
+		}
 	}
 	for _, s := range wholeExps {
 		l, _ := lexed(s)
-		changed(l, func(text string) {
+		for _, text := range changedTexts(l) {
 			count(wantExpAsCut(t, text))
 			count(wantAsCut(t, "array a 4; array b 4; x = "+text+";"))
-		})
+		}
 	}
 	if right < 200 || all < 5*right {
 		t.Errorf("%d of %d can be read: too few to tell", right, all)
