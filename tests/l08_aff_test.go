@@ -318,45 +318,130 @@ func TestAffOfLimits(t *testing.T) {
 	}
 }
 
-func TestAffOfNotExpOk(t *testing.T) {
+func TestAffOfNoKind(t *testing.T) {
 	names := append([]string{"x", "y", "i"}, wrongNames...)
-	for _, e := range []impl.Exp{
-		{}, {K: 9}, {K: -1}, {K: 9, L: []impl.Exp{numExp(1), numExp(2)}},
-		numExp(-1), numExp(1000000), {K: impl.ENum, N: 1, S: "x"}, {K: impl.ENum, N: 1, L: []impl.Exp{numExp(1)}},
-		{K: impl.EVar, S: "x", N: 1}, {K: impl.EVar, S: "x", L: []impl.Exp{varExp("x")}},
-		{K: impl.EAdd}, {K: impl.EAdd, L: []impl.Exp{numExp(1)}}, {K: impl.ESub, L: []impl.Exp{numExp(1), numExp(1), numExp(1)}}, {K: impl.EMul, N: 1, L: []impl.Exp{numExp(1), numExp(1)}}, {K: impl.EAdd, S: "x", L: []impl.Exp{numExp(1), numExp(1)}},
-	} {
-		wantNoAffOf(t, e, names)
-		wantNoAffOf(t, twoExp(impl.EAdd, e, numExp(1)), names)
-		wantNoAffOf(t, twoExp(impl.EMul, numExp(0), e), names)
+	one, two, three := []impl.Exp{numExp(1)}, []impl.Exp{numExp(1), numExp(1)}, []impl.Exp{numExp(1), numExp(1), numExp(1)}
+	wrong := []impl.Exp{numExp(-100001), numExp(100001), numExp(1000000), numExp(math.MaxInt), numExp(math.MinInt), {K: impl.ENum, N: 1 << 32}, {K: impl.EVar, S: "q", N: 1}, {K: impl.EVar, N: 1, L: one}}
+	for _, l := range [][]impl.Exp{nil, {}, one, two, three} {
+		for _, k := range []int{0, -1, 9, 10, 1 << 32, impl.EAt, impl.EMin, impl.EMax} {
+			wrong = append(wrong, impl.Exp{K: k, L: l}, impl.Exp{K: k, N: 1, S: "x", L: l})
+		}
+		// Not of two, be they as they will.
+		if len(l) != 2 {
+			for _, k := range []int{impl.EAdd, impl.ESub, impl.EMul} {
+				wrong = append(wrong, impl.Exp{K: k, L: l}, impl.Exp{K: k, N: 1, S: "x", L: l})
+			}
+		}
 	}
 	for _, name := range wrongNames {
-		wantNoAffOf(t, varExp(name), names)
-		wantNoAffOf(t, twoExp(impl.ESub, varExp("x"), varExp(name)), names)
+		wrong = append(wrong, varExp(name), twoExp(impl.ESub, varExp("x"), varExp(name)))
 	}
-	// 8 deep and 60 Exps are right, more are not.
-	deep, wide := varExp("x"), varExp("x")
-	for depth := 1; depth <= 10; depth++ {
-		if depth <= 8 {
-			wantAffOf(t, deep, names, affOf(depth-1, termOf("x", 1)))
-		} else {
-			wantNoAffOf(t, deep, names)
+	for _, e := range wrong {
+		wantNoAffOf(t, e, names)
+		for _, around := range []impl.Exp{twoExp(impl.EAdd, e, numExp(1)), twoExp(impl.ESub, varExp("x"), e), twoExp(impl.EMul, numExp(0), e), twoExp(impl.EMul, e, numExp(0)), twoExp(impl.ESub, e, e)} {
+			wantNoAffOf(t, around, names)
+			wantNoAffOf(t, twoExp(impl.EAdd, numExp(3), around), names)
 		}
-		if depth <= 5 {
-			wantAffOf(t, wide, names, affOf(0, termOf("x", 1<<(depth-1))))
-		} else {
-			wantNoAffOf(t, wide, names)
+	}
+	// What lies behind the length of an L is no part.
+	wantNoAffOf(t, impl.Exp{K: impl.EAdd, L: three[:1]}, names)
+	wantAffOf(t, impl.Exp{K: impl.EAdd, L: three[:2]}, names, affOf(2))
+}
+
+// What a kind does not name is not looked at, and no more is asked of an expression than that it comes to a straight sum.
+func TestAffOfLooksAtNoMore(t *testing.T) {
+	x, odd := termOf("x", 1), []impl.Exp{varExp("x"), {K: 9}, numExp(1 << 40)}
+	pairIn := func(k, n int, s string, l, r impl.Exp) impl.Exp {
+		return impl.Exp{K: k, N: n, S: s, L: []impl.Exp{l, r}}
+	}
+	for _, c := range []struct {
+		e    impl.Exp
+		want impl.Aff
+	}{
+		{numExp(-1), affOf(-1)}, {numExp(-100000), affOf(-100000)}, {impl.Exp{K: impl.ENum, N: 3, S: "x"}, affOf(3)}, {impl.Exp{K: impl.ENum, N: 3, S: "for"}, affOf(3)}, {impl.Exp{K: impl.ENum, N: 3, L: odd}, affOf(3)}, {impl.Exp{K: impl.ENum, N: -3, S: "?", L: odd[:1]}, affOf(-3)},
+		{impl.Exp{K: impl.EVar, S: "x", N: 7}, affOf(0, x)}, {impl.Exp{K: impl.EVar, S: "x", N: math.MinInt}, affOf(0, x)}, {impl.Exp{K: impl.EVar, S: "x", L: odd}, affOf(0, x)}, {impl.Exp{K: impl.EVar, S: "x", N: -1, L: odd[1:]}, affOf(0, x)},
+		{pairIn(impl.EAdd, 5, "x", numExp(1), numExp(2)), affOf(3)}, {pairIn(impl.ESub, -5, "", numExp(1), varExp("x")), affOf(1, termOf("x", -1))}, {pairIn(impl.EMul, 0, "q", numExp(2), varExp("x")), affOf(0, termOf("x", 2))}, {pairIn(impl.EMul, math.MaxInt, "max", varExp("x"), numExp(-2)), affOf(0, termOf("x", -2))},
+	} {
+		wantAffOf(t, c.e, []string{"x"}, c.want)
+		wantAffOf(t, twoExp(impl.EAdd, c.e, numExp(0)), []string{"x"}, c.want)
+		wantAffOf(t, twoExp(impl.EMul, numExp(1), twoExp(impl.ESub, c.e, twoExp(impl.ESub, c.e, c.e))), []string{"x"}, c.want)
+	}
+}
+
+// smudged is e with something in each part that its kind does not name.
+func (m *maker) smudged(e impl.Exp) impl.Exp {
+	n, s := []int{0, 1, -1, 1 << 40}[m.pick(4)], []string{"", "i", "for", "?"}[m.pick(4)]
+	l := [][]impl.Exp{nil, {{K: 9}}, {varExp("q"), numExp(-1)}}[m.pick(3)]
+	switch e.K {
+	case impl.ENum:
+		return impl.Exp{K: e.K, N: e.N, S: s, L: l}
+	case impl.EVar:
+		return impl.Exp{K: e.K, N: n, S: e.S, L: l}
+	}
+	out := impl.Exp{K: e.K, N: n, S: s}
+	for _, part := range e.L {
+		out.L = append(out.L, m.smudged(part))
+	}
+	return out
+}
+
+// However deep it is, and however many parts it has.
+func TestAffOfDeep(t *testing.T) {
+	names := []string{"x"}
+	left, right, wide, nothing := varExp("x"), varExp("x"), varExp("x"), varExp("x")
+	wrong := varExp("y")
+	for depth := 1; depth <= 40000; depth++ {
+		if depth <= 12 || depth%8000 == 0 {
+			want := affOf(depth-1, termOf("x", 1))
+			for _, e := range []impl.Exp{left, right} {
+				if a, ok := impl.AffOf(e, names); !ok || affText(a) != affText(want) {
+					t.Errorf("AffOf of what is %d deep is %.200s, %v", depth, affText(a), ok)
+				}
+			}
+			if a, ok := impl.AffOf(wrong, names); ok || affText(a) != "0" {
+				t.Errorf("AffOf of something else that is %d deep is %.200s, %v", depth, affText(a), ok)
+			}
 		}
-		deep, wide = twoExp(impl.EAdd, deep, numExp(1)), twoExp(impl.EAdd, wide, wide)
+		left, right, wrong = twoExp(impl.EAdd, left, numExp(1)), twoExp(impl.EAdd, numExp(1), right), twoExp(impl.ESub, numExp(1), wrong)
 	}
-	for range 100000 {
-		deep = twoExp(impl.EAdd, numExp(1), deep)
+	// Both parts are the same two, again and again.
+	for depth := range 300 {
+		a, ok := impl.AffOf(wide, names)
+		if want := affOf(0, termOf("x", 1<<min(depth, 20))); depth <= 16 {
+			wantSum(t, a, ok, want, true, "x, ", depth, " times doubled")
+		} else {
+			wantSum(t, a, ok, impl.Aff{}, false, "x, ", depth, " times doubled")
+		}
+		nothing, wide = twoExp(impl.ESub, nothing, nothing), twoExp(impl.EAdd, wide, wide)
+		a, ok = impl.AffOf(nothing, names)
+		wantSum(t, a, ok, impl.Aff{}, true, "x, ", depth, " times less itself")
 	}
-	round := impl.Exp{K: impl.EAdd, L: make([]impl.Exp, 2)}
-	round.L[0], round.L[1] = round, round
-	for _, e := range []impl.Exp{deep, round} {
-		if a, ok := impl.AffOf(e, names); ok || affText(a) != "0" {
-			t.Error("what is very deep, or stands in itself, is a straight sum")
+	// The same two may be parts of several kinds.
+	l := []impl.Exp{varExp("x"), numExp(3)}
+	each := twoExp(impl.EAdd, twoExp(impl.ESub, impl.Exp{K: impl.EMul, L: l}, impl.Exp{K: impl.EAdd, L: l}), impl.Exp{K: impl.ESub, L: l})
+	wantAffOf(t, each, names, affOf(-6, termOf("x", 3)))
+}
+
+// What stands in itself comes to nothing that could be told.
+func TestAffOfItself(t *testing.T) {
+	one, first, second, far := make([]impl.Exp, 2), make([]impl.Exp, 2), make([]impl.Exp, 2), make([]impl.Exp, 2)
+	for k := impl.EAdd; k <= impl.EMul; k++ {
+		whole := impl.Exp{K: k, L: one}
+		one[0], one[1] = whole, whole
+		first[0], first[1] = impl.Exp{K: k, L: first}, numExp(0)
+		second[0], second[1] = numExp(0), impl.Exp{K: k, L: second}
+		far[0], far[1] = varExp("x"), twoExp(impl.ESub, numExp(1), twoExp(impl.EAdd, impl.Exp{K: k, L: far}, numExp(2)))
+		for _, l := range [][]impl.Exp{one, first, second, far} {
+			for _, e := range []impl.Exp{{K: k, L: l}, twoExp(impl.EAdd, numExp(1), impl.Exp{K: k, L: l}), twoExp(impl.EMul, numExp(0), impl.Exp{K: k, L: l})} {
+				if a, ok := impl.AffOf(e, []string{"x"}); ok || affText(a) != "0" {
+					t.Error("what stands in itself is a straight sum")
+				}
+			}
+		}
+		// A number does not name the L in which it stands itself.
+		second[1] = impl.Exp{K: impl.ENum, N: 4, L: second}
+		if a, ok := impl.AffOf(impl.Exp{K: impl.EAdd, L: second}, nil); !ok || affText(a) != "4" {
+			t.Error("the L of a number is looked at")
 		}
 	}
 }
@@ -390,19 +475,21 @@ func TestAffOfAsTold(t *testing.T) {
 		if n%10 == 0 {
 			e = m.exp(3)
 		}
-		if !impl.ExpOk(e) {
-			continue
-		}
 		told, ok := straightTold(e, names)
 		if !ok {
 			wrong++
 			wantNoAffOf(t, e, names)
+			wantNoAffOf(t, m.smudged(e), names)
 			continue
 		}
 		right++
 		wantAffOf(t, e, names, told.aff())
+		a, ok := impl.AffOf(m.smudged(e), names)
+		wantSum(t, a, ok, told.aff(), true, "AffOf of ", toldExp(e), " with more than its kinds name")
+		if !impl.ExpOk(e) {
+			continue
+		}
 		binds := []impl.Bind{{Name: "i", N: m.pick(41) - 20}, {Name: "j", N: m.pick(41) - 20}, {Name: "k", N: m.pick(41) - 20}, {Name: "ij", N: m.pick(41) - 20}}
-		a, _ := impl.AffOf(e, names)
 		if word, _ := impl.Eval(impl.Prog{}, impl.Sto{}, binds, e); impl.AffAt(a, binds) != word {
 			t.Errorf("AffAt of %q at %v is %d, not %d", toldExp(e), binds, impl.AffAt(a, binds), word)
 		}

@@ -95,24 +95,25 @@ func TestConstOf(t *testing.T) {
 	} {
 		wantConst(t, parsedExp(t, text), 0, false)
 	}
-	for _, e := range []impl.Exp{{}, {K: 9}, numExp(-1), numExp(1000000), {K: impl.ENum, N: 1, S: "x"}, {K: impl.ENum, N: 1, L: []impl.Exp{numExp(1)}}, {K: impl.EAdd, L: []impl.Exp{numExp(1)}}, {K: impl.EMul}, varExp(""), varExp("for"), twoExp(impl.EAdd, numExp(1), numExp(-1)), {K: impl.ESub, N: 1, L: []impl.Exp{numExp(1), numExp(1)}}} {
+	for _, e := range []impl.Exp{{}, {K: 9}, {K: 9, N: 1}, numExp(-100001), numExp(1000000), {K: impl.EAdd, L: []impl.Exp{numExp(1)}}, {K: impl.EMul}, varExp(""), varExp("for"), {K: impl.EVar, S: "i", N: 1}, {K: impl.EMin, L: []impl.Exp{numExp(1), numExp(1)}}, {K: impl.ESub, L: []impl.Exp{numExp(1), numExp(1), numExp(1)}}} {
 		wantConst(t, e, 0, false)
+		wantConst(t, twoExp(impl.EMul, numExp(0), e), 0, false)
 	}
-	for depth := 1; depth <= 9; depth++ {
+	// Not even what Eval refuses is refused for that alone.
+	wantConst(t, numExp(-1), -1, true)
+	wantConst(t, numExp(-100000), -100000, true)
+	wantConst(t, impl.Exp{K: impl.ENum, N: 1, S: "x"}, 1, true)
+	wantConst(t, impl.Exp{K: impl.ENum, N: 1, L: []impl.Exp{varExp("x")}}, 1, true)
+	wantConst(t, twoExp(impl.EAdd, numExp(1), numExp(-1)), 0, true)
+	wantConst(t, impl.Exp{K: impl.ESub, N: 1, S: "x", L: []impl.Exp{numExp(1), numExp(3)}}, -2, true)
+	for depth := 1; depth <= 12; depth++ {
 		deep, wide := numExp(1), numExp(1)
 		for range depth - 1 {
 			deep, wide = twoExp(impl.EAdd, deep, numExp(1)), twoExp(impl.EAdd, wide, wide)
 		}
-		wantConst(t, deep, []int{0, depth}[count(depth <= 8)], depth <= 8)
-		wantConst(t, wide, []int{0, 1 << (depth - 1)}[count(depth <= 5)], depth <= 5)
+		wantConst(t, deep, depth, true)
+		wantConst(t, wide, 1<<(depth-1), true)
 	}
-}
-
-func count(is bool) int {
-	if is {
-		return 1
-	}
-	return 0
 }
 
 func TestBoxOfNoLoop(t *testing.T) {
@@ -157,8 +158,12 @@ func TestBoxOfOneLoop(t *testing.T) {
 		}
 	}
 	wantNoBox(t, forStmt("i", impl.Exp{}, numExp(1)))
-	wantNoBox(t, forStmt("i", numExp(-1), numExp(1)))
-	wantNoBox(t, forStmt("i", numExp(0), impl.Exp{K: impl.ENum, N: 1, S: "x"}))
+	wantNoBox(t, forStmt("i", numExp(0), impl.Exp{K: impl.EVar, N: 1}))
+	wantBox(t, forStmt("i", numExp(-1), numExp(1)), rngOf("i", -1, 1))
+	wantBox(t, forStmt("i", numExp(-10000), numExp(-10000)), rngOf("i", -10000, -10000))
+	wantNoBox(t, forStmt("i", numExp(-10001), numExp(1)))
+	wantBox(t, forStmt("i", numExp(0), impl.Exp{K: impl.ENum, N: 1, S: "x"}), rngOf("i", 0, 1))
+	wantBox(t, forStmt("i", impl.Exp{K: impl.ESub, N: 3, L: []impl.Exp{numExp(1), numExp(-1)}}, numExp(2)), rngOf("i", 2, 2))
 }
 
 func TestBoxOfLoopsInLoops(t *testing.T) {
@@ -313,11 +318,42 @@ func TestNoAccs(t *testing.T) {
 	// An EAt without a place.
 	wantNoAccs(t, loopIn("i", setStmt("x", impl.Exp{K: impl.EAt, S: "a"})))
 	wantNoAccs(t, loopIn("i", setStmt("x", twoExp(impl.EAdd, atExp("a", varExp("i")), impl.Exp{K: impl.EAt, S: "a", L: []impl.Exp{}}))))
-	// A place that is not ExpOk.
-	for _, place := range []impl.Exp{{}, {K: 9}, numExp(-1), varExp("for"), {K: impl.EVar, S: "i", N: 1}, {K: impl.EAdd, L: []impl.Exp{varExp("i")}}, deepExps(9)[1]} {
+	// A place that is none.
+	for _, place := range []impl.Exp{{}, {K: 9}, numExp(-100001), varExp("for"), {K: impl.EVar, S: "q", N: 1}, {K: impl.EAdd, L: []impl.Exp{varExp("i")}}, deepExps(9)[1]} {
 		wantNoAccs(t, loopIn("i", setStmt("x", atExp("a", place))))
 		wantNoAccs(t, loopIn("i", putStmt("a", place, numExp(1))))
 	}
+}
+
+// A place is told by what its kind names, and need not be ExpOk.
+func TestAccsOfOddPlaces(t *testing.T) {
+	i := termOf("i", 1)
+	deep, wide := varExp("i"), varExp("i")
+	for range 100 {
+		deep = twoExp(impl.EAdd, deep, numExp(1))
+	}
+	for range 6 {
+		wide = twoExp(impl.EAdd, wide, wide)
+	}
+	for _, c := range []struct {
+		place impl.Exp
+		want  impl.Aff
+	}{
+		{numExp(-1), affOf(-1)}, {numExp(-100000), affOf(-100000)}, {impl.Exp{K: impl.EVar, S: "i", N: 1}, affOf(0, i)}, {impl.Exp{K: impl.ENum, N: 2, S: "q"}, affOf(2)}, {impl.Exp{K: impl.EAdd, N: 1, S: "q", L: []impl.Exp{varExp("i"), numExp(-1)}}, affOf(-1, i)}, {deep, affOf(100, i)}, {wide, affOf(0, termOf("i", 64))},
+	} {
+		asked, put := impl.Acc{Name: "a", F: c.want}, impl.Acc{Name: "b", F: c.want, Puts: true}
+		wantAccs(t, loopIn("i", setStmt("x", atExp("a", c.place))), asked)
+		wantAccs(t, loopIn("i", putStmt("b", c.place, atExp("a", c.place))), asked, put)
+	}
+	p := progOf(arrsOf("a", "b"))
+	wantWithin(t, true, p, loopIn("i", putStmt("a", impl.Exp{K: impl.EVar, S: "i", N: 1}, numExp(1))))
+	wantWithin(t, false, p, loopIn("i", putStmt("a", numExp(-1), numExp(1))))
+	wantWithin(t, true, p, loopIn("i", putStmt("a", twoExp(impl.EAdd, numExp(4), numExp(-1)), numExp(1))))
+	// What stands where a place's kind names nothing is told ahead of that place.
+	within := impl.Exp{K: impl.EVar, S: "i", L: []impl.Exp{atExp("b", numExp(1)), atExp("c", impl.Exp{K: impl.ENum, N: 2, L: []impl.Exp{atExp("d", numExp(3))}})}}
+	wantAccs(t, loopIn("i", setStmt("x", atExp("a", within))), asked("b", 0, 1), asked("d", 0, 3), asked("c", 0, 2), asked("a", 0, 0, i))
+	wantAccs(t, loopIn("i", putStmt("a", within, atExp("a", numExp(4)))), asked("b", 0, 1), asked("d", 0, 3), asked("c", 0, 2), asked("a", 0, 4), put("a", 0, 0, i))
+	wantNoAccs(t, loopIn("i", setStmt("x", atExp("a", impl.Exp{K: impl.EVar, S: "i", L: []impl.Exp{atExp("b", varExp("q"))}}))))
 }
 
 // All parts are looked at, whatever their kind names: ahead of what is put the At and the E, behind it the Body.
