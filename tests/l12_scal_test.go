@@ -162,65 +162,136 @@ func TestKindOfLoopsWithin(t *testing.T) {
 	wantSumsAndOwns(t, s.Body[1], []string{"s"}, []string{"m"})
 }
 
-// What the kind does not name is asked and set all the same.
+// named tells which fields of an Exp each kind of Stmt names.
+var named = map[int][]string{impl.SSet: {"E"}, impl.SPut: {"At", "E"}, impl.SFor: {"Lo", "Hi"}, impl.SPrint: {"E"}}
+
+// smudgedWith has in each part that the kinds do not name the Exp, or statements that set and ask its name.
+func smudgedWith(s impl.Stmt, e impl.Exp) impl.Stmt {
+	for field, reach := range expFields {
+		if slices.Contains(named[s.K], field) {
+			*reach(&s) = smudgedExpWith(*reach(&s), e)
+		} else {
+			*reach(&s) = e
+		}
+	}
+	if s.K != impl.SFor {
+		s.Body = []impl.Stmt{putStmt("b", e, e), setStmt(e.S, twoExp(impl.EAdd, e, e))}
+		return s
+	}
+	s.Body = slices.Clone(s.Body)
+	for i, inner := range s.Body {
+		s.Body[i] = smudgedWith(inner, e)
+	}
+	return s
+}
+
+func smudgedExpWith(e impl.Exp, with impl.Exp) impl.Exp {
+	if e.K == impl.ENum || e.K == impl.EVar {
+		e.L = []impl.Exp{with, with}
+		return e
+	}
+	e.L = slices.Clone(e.L)
+	for i, part := range e.L {
+		e.L[i] = smudgedExpWith(part, with)
+	}
+	return e
+}
+
+// What the kind does not name is neither asked nor set.
 func TestKindOfUnnamedParts(t *testing.T) {
 	x, y := varExp("x"), varExp("y")
 	sum, own := setStmt("x", twoExp(impl.EAdd, x, numExp(1))), setStmt("x", numExp(1))
+	body := []impl.Stmt{setStmt("x", twoExp(impl.EMul, x, x)), putStmt("b", x, y)}
 	for field, reach := range expFields {
 		for k := -1; k <= 6; k++ {
 			beside := impl.Stmt{K: k, S: "q"}
-			*reach(&beside) = x
-			wantKind(t, loopIn("i", beside), "x", impl.ScAsked)
-			wantKind(t, loopIn("i", sum, beside), "x", impl.ScTied)
-			wantKind(t, loopIn("i", beside, sum), "x", impl.ScTied)
-			wantKind(t, loopIn("i", beside, own), "x", impl.ScTied)
-			wantKind(t, loopIn("i", own, beside), "x", impl.ScOwn)
-			*reach(&beside) = y
-			wantKind(t, loopIn("i", beside, sum), "x", impl.ScSum)
-			wantKind(t, loopIn("i", beside, own), "x", impl.ScOwn)
+			*reach(&beside) = twoExp(impl.EMin, y, atExp("a", x))
+			want := []int{impl.ScNone, impl.ScSum, impl.ScSum, impl.ScOwn, impl.ScOwn}
+			if slices.Contains(named[k], field) {
+				want = []int{impl.ScAsked, impl.ScTied, impl.ScTied, impl.ScTied, impl.ScOwn}
+			}
+			for i, l := range [][]impl.Stmt{{beside}, {sum, beside}, {beside, sum}, {beside, own}, {own, beside}} {
+				wantKind(t, loopIn("i", l...), "x", want[i])
+				wantKind(t, loopIn("i", append([]impl.Stmt{setStmt("y", numExp(1))}, l...)...), "x", want[i])
+			}
 		}
-		if field == "E" {
-			continue
+		if field != "E" {
+			oddSum, oddOwn := sum, own
+			*reach(&oddSum), *reach(&oddOwn) = x, x
+			wantKind(t, loopIn("i", oddSum), "x", impl.ScSum)
+			wantKind(t, loopIn("i", oddOwn, setStmt("z", x)), "x", impl.ScOwn)
 		}
-		oddSum, oddOwn := sum, own
-		*reach(&oddSum), *reach(&oddOwn) = x, x
-		wantKind(t, loopIn("i", oddSum), "x", impl.ScTied)
-		wantKind(t, loopIn("i", oddOwn), "x", impl.ScTied)
-		*reach(&oddSum), *reach(&oddOwn) = y, y
-		wantKind(t, loopIn("i", oddSum), "x", impl.ScSum)
-		wantKind(t, loopIn("i", oddOwn), "x", impl.ScOwn)
 	}
 	for k := -1; k <= 6; k++ {
-		if k != impl.SSet {
-			wantKind(t, loopIn("i", impl.Stmt{K: k, S: "x", Body: []impl.Stmt{own}}), "x", impl.ScTied)
-			wantKind(t, loopIn("i", impl.Stmt{K: k, S: "x", E: sum.E}), "x", impl.ScAsked)
-			wantKind(t, loopIn("i", own, impl.Stmt{K: k, S: "x", Body: []impl.Stmt{printStmt(x)}}), "x", impl.ScOwn)
+		// A Body that no kind but one names.
+		beside, want := impl.Stmt{K: k, S: "q", Body: body}, impl.ScSum
+		if k == impl.SFor {
+			want = impl.ScTied
 		}
+		wantKind(t, loopIn("i", sum, beside), "x", want)
+		wantKind(t, loopIn("i", beside, sum), "x", want)
+		wantCounts(t, []impl.Stmt{sum, beside}, "x", 2, 4)
+		oddOwn := own
+		oddOwn.Body = body
+		wantKind(t, loopIn("i", oddOwn, impl.Stmt{K: k, S: "x", Body: []impl.Stmt{printStmt(x)}}), "x", map[bool]int{false: impl.ScOwn, true: impl.ScTied}[k == impl.SSet])
+		if k == impl.SFor || k == impl.SSet {
+			continue
+		}
+		wantKind(t, loopIn("i", impl.Stmt{K: k, S: "x", Body: []impl.Stmt{own}}), "x", impl.ScNone)
+		want = impl.ScNone
+		if slices.Contains(named[k], "E") {
+			want = impl.ScAsked
+		}
+		wantKind(t, loopIn("i", impl.Stmt{K: k, S: "x", E: sum.E}), "x", want)
+		wantKind(t, loopIn("i", impl.Stmt{K: impl.SFor, S: "j", Body: []impl.Stmt{{K: k, S: "x", Body: body, E: x}}}), "x", want)
 	}
-	// A sum of one, of three, of something else in it.
+	wantKind(t, loopIn("i", impl.Stmt{K: impl.SFor, S: "j", Body: []impl.Stmt{own}}), "x", impl.ScTied)
+	wantSumsAndOwns(t, loopIn("i", smudgedWith(sum, x), smudgedWith(setStmt("y", numExp(2)), y), smudgedWith(setStmt("z", twoExp(impl.EMax, varExp("z"), y)), varExp("z"))), []string{"x", "z"}, []string{"y"})
+}
+
+// Sums of each kind, of none, of one, of two, of three.
+func TestKindOfOddExps(t *testing.T) {
+	x, y := varExp("x"), varExp("y")
 	for k := -1; k <= 10; k++ {
-		for _, l := range [][]impl.Exp{nil, {x}, {x, numExp(1), numExp(1)}, {numExp(1), x}, {{K: impl.EVar, S: "x", L: []impl.Exp{x}}, numExp(1)}} {
-			e := impl.Exp{K: k, L: l}
-			want := impl.ScTied
-			if len(l) == 0 {
-				want = impl.ScOwn
+		looksIn := k == impl.EAt || k >= impl.EAdd && k <= impl.EMax
+		for _, l := range [][]impl.Exp{nil, {x}, {x, numExp(1), numExp(1)}, {numExp(1), x}, {twoExp(impl.EAdd, x, numExp(0)), numExp(1)}, {x, atExp("a", x)}} {
+			want := impl.ScOwn
+			if looksIn && len(l) > 0 {
+				want = impl.ScTied
 			}
-			wantKind(t, loopIn("i", setStmt("x", e)), "x", want)
+			wantKind(t, loopIn("i", setStmt("x", impl.Exp{K: k, L: l})), "x", want)
+			wantKind(t, loopIn("i", setStmt("x", impl.Exp{K: k, N: 2, S: "y", L: l})), "x", map[bool]int{false: want, true: impl.ScOwn}[k == impl.EVar])
+			if k == impl.EVar {
+				wantKind(t, loopIn("i", setStmt("x", impl.Exp{K: k, S: "x", L: l})), "x", impl.ScTied)
+			}
 		}
-		want := impl.ScTied
-		switch k {
-		case impl.EAdd:
-			want = impl.ScSum
-		case impl.EMin:
-			want = impl.ScMin
-		case impl.EMax:
-			want = impl.ScMax
+		want := impl.ScOwn
+		if looksIn {
+			want = map[int]int{impl.EAdd: impl.ScSum, impl.EMin: impl.ScMin, impl.EMax: impl.ScMax}[k]
+			if want == 0 {
+				want = impl.ScTied
+			}
 		}
-		for _, left := range []impl.Exp{x, {K: impl.EVar, S: "x", N: 5}, {K: impl.EVar, S: "x", L: []impl.Exp{y}}} {
+		for _, left := range []impl.Exp{x, {K: impl.EVar, S: "x", N: 5}, {K: impl.EVar, S: "x", L: []impl.Exp{y}}, {K: impl.EVar, S: "x", L: []impl.Exp{x, x}}} {
 			wantKind(t, loopIn("i", setStmt("x", impl.Exp{K: k, L: []impl.Exp{left, y}})), "x", want)
 			wantKind(t, loopIn("i", setStmt("x", impl.Exp{K: k, N: 3, S: "q", L: []impl.Exp{left, numExp(1)}})), "x", want)
+			wantKind(t, loopIn("i", setStmt("x", impl.Exp{K: k, L: []impl.Exp{left, {K: impl.ENum, L: []impl.Exp{x}}}})), "x", want)
 		}
-		wantKind(t, loopIn("i", setStmt("x", impl.Exp{K: impl.EAdd, L: []impl.Exp{{K: k, S: "q", L: []impl.Exp{x}}, numExp(1)}})), "x", impl.ScTied)
+	}
+}
+
+// P12: of a program with something in all parts that are not named each word is of the same kind.
+func TestKindOfSmudgedLoops(t *testing.T) {
+	m := maker{seed: 1237}
+	for range 300 {
+		s := parsed(t, "array a 4; for i = 0 to 3 { "+m.words([]string{"i"}, 1+m.pick(6))+"}").Body[0]
+		for _, with := range []string{"i", "q", "r", "s", "t", "u", "v"} {
+			odd := smudgedWith(s, varExp(with))
+			for _, name := range []string{"a", "i", "j", "q", "r", "s", "t", "u", "v"} {
+				wantKind(t, odd, name, impl.KindOf(s, name))
+			}
+			wantSumsAndOwns(t, odd, impl.Sums(s), impl.Owns(s))
+		}
 	}
 }
 
